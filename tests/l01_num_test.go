@@ -70,16 +70,9 @@ func TestFixedFitsExactly(t *testing.T) {
 }
 
 func TestReadFixedTellsWhatFixedMakes(t *testing.T) {
-	for a := range 256 {
-		one := string([]byte{byte(a)})
-		if n, ok := impl.ReadFixed(one, 1); !ok || n != a || impl.Fixed(n, 1) != one {
-			t.Errorf("ReadFixed(%q, 1) = %d, %v", one, n, ok)
-		}
-		for b := range 256 {
-			two := string([]byte{byte(a), byte(b)})
-			if n, ok := impl.ReadFixed(two, 2); !ok || n != 256*a+b || impl.Fixed(n, 2) != two {
-				t.Errorf("ReadFixed(%q, 2) = %d, %v", two, n, ok)
-			}
+	for _, s := range shortTexts() {
+		if n, ok := impl.ReadFixed(s, len(s)); !ok || impl.Fixed(n, len(s)) != s {
+			t.Errorf("ReadFixed(%q, %d) = %d, %v", s, len(s), n, ok)
 		}
 	}
 }
@@ -147,7 +140,18 @@ func TestVarIsShortestAndReadBack(t *testing.T) {
 	}
 }
 
-// All texts of up to two bytes are held against all Vars that short.
+// shortTexts are all texts of one and of two bytes.
+func shortTexts() []string {
+	var l []string
+	for a := range 256 {
+		l = append(l, string([]byte{byte(a)}))
+		for b := range 256 {
+			l = append(l, string([]byte{byte(a), byte(b)}))
+		}
+	}
+	return l
+}
+
 func TestReadVarTakesNothingElse(t *testing.T) {
 	made := map[string]int{}
 	for n := range 1 << 14 {
@@ -156,18 +160,15 @@ func TestReadVarTakesNothingElse(t *testing.T) {
 	if len(made) != 1<<14 {
 		t.Fatalf("%d numbers have %d Vars", 1<<14, len(made))
 	}
-	for a := range 256 {
-		for b := range 256 {
-			s := string([]byte{byte(a), byte(b)})
-			wantN, wantK := 0, 0
-			for k := 1; k <= 2; k++ {
-				if n, ok := made[s[:k]]; ok {
-					wantN, wantK = n, k
-				}
+	for _, s := range shortTexts() {
+		wantN, wantK := 0, 0
+		for k := 1; k <= len(s); k++ {
+			if n, ok := made[s[:k]]; ok {
+				wantN, wantK = n, k
 			}
-			if n, k := impl.ReadVar(s); n != wantN || k != wantK {
-				t.Errorf("ReadVar(%q) = %d, %d, want %d, %d", s, n, k, wantN, wantK)
-			}
+		}
+		if n, k := impl.ReadVar(s); n != wantN || k != wantK {
+			t.Errorf("ReadVar(%q) = %d, %d, want %d, %d", s, n, k, wantN, wantK)
 		}
 	}
 }
@@ -214,26 +215,19 @@ func TestHexMakes(t *testing.T) {
 	}
 }
 
-// All texts of up to two bytes are held against the Hex of every byte.
 func TestUnhexTakesNothingElse(t *testing.T) {
 	made := map[string]string{}
 	for a := range 256 {
 		one := string([]byte{byte(a)})
 		made[impl.Hex(one)] = one
-		if got, ok := impl.Unhex(one); got != "" || ok {
-			t.Errorf("Unhex(%q) = %q, %v", one, got, ok)
-		}
 	}
 	if len(made) != 256 {
 		t.Fatalf("256 bytes have %d texts of Hex", len(made))
 	}
-	for a := range 256 {
-		for b := range 256 {
-			s := string([]byte{byte(a), byte(b)})
-			want, wantOk := made[s]
-			if got, ok := impl.Unhex(s); got != want || ok != wantOk {
-				t.Errorf("Unhex(%q) = %q, %v, want %q, %v", s, got, ok, want, wantOk)
-			}
+	for _, s := range shortTexts() {
+		want, wantOk := made[s]
+		if got, ok := impl.Unhex(s); got != want || ok != wantOk {
+			t.Errorf("Unhex(%q) = %q, %v, want %q, %v", s, got, ok, want, wantOk)
 		}
 	}
 }
