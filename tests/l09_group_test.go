@@ -681,8 +681,7 @@ func recSteps() []nextRec {
 }
 
 // forAllRows calls with each row of up to n of the steps.
-func forAllRows(n int, each func(l []impl.Place)) {
-	steps := recSteps()
+func forAllRows(steps []nextRec, n int, each func(l []impl.Place)) {
 	var follow func(ahead []impl.Place)
 	follow = func(ahead []impl.Place) {
 		each(ahead)
@@ -699,7 +698,7 @@ func forAllRows(n int, each func(l []impl.Place)) {
 
 func TestGroupsByTheWords(t *testing.T) {
 	starts := []impl.Group{{}, {Dir: entries("b"), Last: 3}}
-	forAllRows(5, func(l []impl.Place) {
+	forAllRows(recSteps(), 5, func(l []impl.Place) {
 		for _, g := range starts {
 			checkRegroup(t, "row", g, l, slowRegroup(g, l))
 		}
@@ -744,7 +743,7 @@ func checkUnsealed(t *testing.T, l []impl.Place) {
 }
 
 func TestGroupPromiseOfRows(t *testing.T) {
-	forAllRows(4, func(l []impl.Place) { checkUnsealed(t, l) })
+	forAllRows(recSteps(), 4, func(l []impl.Place) { checkUnsealed(t, l) })
 }
 
 // longRow is a row of records of many batches that are mixed with each other,
